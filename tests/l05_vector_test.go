@@ -490,21 +490,29 @@ func TestLaterIsNewMemory(t *testing.T) {
 	}
 }
 
+// expectNumbersOfABook overwrites the numbers that are answered to a book, with
+// the room behind them, and the book, and looks whether either is seen in the
+// other.
+func expectNumbersOfABook(t *testing.T, book []impl.Entry, want []int64, call func([]impl.Entry) []int64) {
+	t.Helper()
+	whole, given := withRoom(book)
+	before := slices.Clone(whole)
+	first, second := call(given), call(given)
+	room := first[:cap(first)]
+	for i := range room {
+		room[i] = 99
+	}
+	if !slices.Equal(whole, before) || !slices.Equal(second, want) {
+		t.Fatalf("an answer to %v shares memory", before)
+	}
+	overwrite(whole)
+	if !slices.Equal(second, want) || !slices.Equal(call(book), want) {
+		t.Fatalf("an answer to %v shares memory with the book", before)
+	}
+}
+
 func TestVecOfIsNewMemory(t *testing.T) {
 	for _, book := range someBooks() {
-		whole, given := withRoom(book)
-		before, want := slices.Clone(whole), dotsByHand(book)
-		first, second := impl.VecOf(given), impl.VecOf(given)
-		room := first[:cap(first)]
-		for i := range room {
-			room[i] = 99
-		}
-		if !slices.Equal(whole, before) || !slices.Equal(second, want) {
-			t.Fatalf("an answer of VecOf(%v) shares memory", before)
-		}
-		overwrite(whole)
-		if !slices.Equal(second, want) || !slices.Equal(impl.VecOf(book), want) {
-			t.Fatalf("an answer of VecOf(%v) shares memory with the book", before)
-		}
+		expectNumbersOfABook(t, book, dotsByHand(book), impl.VecOf)
 	}
 }
