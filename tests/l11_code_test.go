@@ -138,7 +138,8 @@ func expectAsDecoded(t *testing.T, b []int64) bool {
 	return true
 }
 
-// codedBooks have numbers of each length, and gaps of each size.
+// codedBooks have numbers of each length, and gaps of each size; some are of one
+// entry, of each key.
 func codedBooks() []coded {
 	list := slices.Clone(codesWrittenOut)
 	long := fullBook()
@@ -147,6 +148,10 @@ func codedBooks() []coded {
 	}
 	mixed := slices.DeleteFunc(slices.Clone(long), func(e impl.Entry) bool { return e.Slot == 2 || e.Owner == 1 })
 	for _, book := range [][]impl.Entry{fullBook(), long, mixed, richBook(), newerBook()} {
+		list = append(list, coded{book, codeByHand(book)})
+	}
+	for _, c := range ownedSlots {
+		book := []impl.Entry{entry(c.owner, c.slot, 127+c.key%2, 16383+c.key%2)}
 		list = append(list, coded{book, codeByHand(book)})
 	}
 	return list
